@@ -97,6 +97,9 @@ func fill(v reflect.Value) {
 		v.SetInt(-987654321)
 	case reflect.String:
 		v.SetString("filled")
+	case reflect.Slice:
+		v.Set(reflect.MakeSlice(v.Type(), 1, 1))
+		fill(v.Index(0))
 	case reflect.Struct:
 		for i := range v.NumField() {
 			fill(v.Field(i))
