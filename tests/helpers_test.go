@@ -3,6 +3,7 @@ package tests
 import (
 	"fmt"
 	"math"
+	"runtime"
 	"slices"
 	"testing"
 
@@ -327,6 +328,18 @@ func badQuiddities() [][]int {
 	}
 }
 
+// changedTexts changes a text by one byte, put in, put in place of another one, or taken out.
+func changedTexts(s string) []string {
+	var texts []string
+	for at := range len(s) {
+		texts = append(texts, s[:at]+s[at+1:])
+		for b := range 256 {
+			texts = append(texts, s[:at]+string([]byte{byte(b)})+s[at:], s[:at]+string([]byte{byte(b)})+s[at+1:])
+		}
+	}
+	return texts
+}
+
 func want[T any](t *testing.T, got T, expected T, what ...any) {
 	t.Helper()
 	if fmt.Sprint(got) != fmt.Sprint(expected) {
@@ -347,4 +360,17 @@ func wantFailedList[T any](t *testing.T, got []T, ok bool, what ...any) {
 	if ok || len(got) != 0 {
 		t.Errorf("%v: got %v, %v, want a failure", fmt.Sprint(what...), got, ok)
 	}
+}
+
+// wantNoGoroutines tells whether there are no more goroutines than there were before.
+func wantNoGoroutines(t *testing.T, before int) {
+	t.Helper()
+	// A goroutine that has sent all it had may take a moment to be gone.
+	for range 1000000 {
+		if runtime.NumGoroutine() <= before {
+			return
+		}
+		runtime.Gosched()
+	}
+	t.Errorf("%d goroutines are left behind", runtime.NumGoroutine()-before)
 }

@@ -580,15 +580,10 @@ func isText(s string) bool {
 	return len(words) <= 12
 }
 
-// TestParseDiagonalsOfChangedTexts changes texts by one byte, put in, put in place of another one, or taken out.
 func TestParseDiagonalsOfChangedTexts(t *testing.T) {
 	for _, s := range []string{".", "0-2", "10-11", "0-2,0-3", "0-10,2-4", strings.Repeat("0-1,", 11) + "0-1"} {
-		for at := range len(s) {
-			checkParsed(t, s[:at]+s[at+1:])
-			for b := range 256 {
-				checkParsed(t, s[:at]+string([]byte{byte(b)})+s[at:])
-				checkParsed(t, s[:at]+string([]byte{byte(b)})+s[at+1:])
-			}
+		for _, changed := range changedTexts(s) {
+			checkParsed(t, changed)
 		}
 	}
 }

@@ -662,12 +662,5 @@ func TestNoGoroutineIsLeftBehind(t *testing.T) {
 		impl.FarthestByFlips(6, fan(6))
 		impl.WidestDistance(6)
 	}
-	// A goroutine that has sent all it had may take a moment to be gone.
-	for range 1000000 {
-		if runtime.NumGoroutine() <= before {
-			return
-		}
-		runtime.Gosched()
-	}
-	t.Errorf("%d goroutines are left behind", runtime.NumGoroutine()-before)
+	wantNoGoroutines(t, before)
 }
